@@ -3,6 +3,7 @@ package tests
 import (
 	"fmt"
 	"math"
+	"math/rand/v2"
 	"slices"
 	"testing"
 
@@ -77,4 +78,31 @@ func expect(t *testing.T, what string, got, want []any) {
 // of collects the results of a call.
 func of(results ...any) []any {
 	return results
+}
+
+// listsUpTo returns all lists of some numbers with at most a length, the shorter ones first.
+func listsUpTo(length int, numbers ...int64) [][]int64 {
+	all := [][]int64{nil}
+	last := all
+	for range length {
+		var longer [][]int64
+		for _, list := range last {
+			for _, n := range numbers {
+				longer = append(longer, append(slices.Clone(list), n))
+			}
+		}
+		all = append(all, longer...)
+		last = longer
+	}
+	return all
+}
+
+// drawn returns a list of numbers below some number, which follow from a seed alone.
+func drawn(seed uint64, length int, below int64) []int64 {
+	source := rand.New(rand.NewPCG(seed, 7))
+	list := make([]int64, length)
+	for i := range list {
+		list[i] = source.Int64N(below)
+	}
+	return list
 }
