@@ -5,6 +5,7 @@ import (
 	"math"
 	"math/rand/v2"
 	"slices"
+	"strings"
 	"testing"
 
 	"loop.example/g01112/impl"
@@ -95,6 +96,15 @@ func listsUpTo(length int, numbers ...int64) [][]int64 {
 		last = longer
 	}
 	return all
+}
+
+// lettersAndDigits returns for each word of a letter and a digit the place of the letter among all letters, and the digit.
+func lettersAndDigits(s, letters string) [][2]int64 {
+	var pairs [][2]int64
+	for _, word := range strings.Fields(s) {
+		pairs = append(pairs, [2]int64{int64(strings.IndexByte(letters, word[0])), int64(word[1] - '0')})
+	}
+	return pairs
 }
 
 // drawn returns a list of numbers below some number, which follow from a seed alone.

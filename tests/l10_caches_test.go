@@ -31,8 +31,8 @@ func systemFrom(s string) impl.System {
 // opsFrom returns ops with a word for each of them: r, w or e, and the cache.
 func opsFrom(s string) []impl.Op {
 	var ops []impl.Op
-	for _, word := range strings.Fields(s) {
-		ops = append(ops, impl.Op{Kind: int64(strings.IndexByte("rwe", word[0])), Cache: int64(word[1] - '0')})
+	for _, pair := range lettersAndDigits(s, "rwe") {
+		ops = append(ops, impl.Op{Kind: pair[0], Cache: pair[1]})
 	}
 	return ops
 }
